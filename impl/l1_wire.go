@@ -44,7 +44,8 @@ var kindRows = [...]kindRow{
 	{kind: KindBytes, hasData: true},
 }
 
-// rowByKind is kindRows by the low part of a tag, so that no read searches for its row.
+// rowByKind only helps to set room aside: what is answered comes from rowOf, so that no answer
+// hangs on a variable.
 var (
 	rowByKind     [kindsInTag]kindRow
 	rowByKindOnce sync.Once
@@ -56,13 +57,26 @@ func fillRowByKind() {
 	}
 }
 
-func rowOf(kind int) (kindRow, bool) {
+// roomFor takes good fields alone, as their Kind is an index here.
+func roomFor(l []Field) int {
 	rowByKindOnce.Do(fillRowByKind)
-	if kind < 0 || kind >= kindsInTag {
-		return kindRow{}, false
+	room := 0
+	for _, f := range l {
+		room += 2 * maxSevens // the tag, and the number or how long Data is
+		if rowByKind[f.Kind].hasData {
+			room += len(f.Data)
+		}
 	}
-	row := rowByKind[kind]
-	return row, row.hasNum || row.hasData
+	return min(room, MaxWire)
+}
+
+func rowOf(kind int) (kindRow, bool) {
+	for _, row := range kindRows {
+		if row.kind == kind {
+			return row, true
+		}
+	}
+	return kindRow{}, false
 }
 
 func VarintOf(n int) (string, bool) {
@@ -153,7 +167,7 @@ func FieldsBytes(l []Field) (string, bool) {
 	if !goodFields(l) {
 		return "", false
 	}
-	var b []byte
+	b := make([]byte, 0, roomFor(l))
 	for _, f := range l {
 		// Ahead of copying, so that a Data of any length costs nothing.
 		if len(f.Data) > MaxWire {
