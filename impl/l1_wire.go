@@ -184,6 +184,11 @@ func FieldsBytes(l []Field) (string, bool) {
 // appendField takes good fields alone.
 func appendField(b []byte, f Field) []byte {
 	b = appendVarint(b, kindsInTag*f.No+f.Kind)
+	return appendContent(b, f)
+}
+
+// appendContent appends what stands behind a field's tag; the items of lists stand so without any.
+func appendContent(b []byte, f Field) []byte {
 	row, _ := rowOf(f.Kind)
 	if row.hasNum {
 		folded, _ := FoldNumber(f.Num)
@@ -219,6 +224,11 @@ func takeField(s string, at int) (Field, int, bool) {
 	if !goodField(f) {
 		return Field{}, 0, false
 	}
+	return takeContent(s, at, f)
+}
+
+// takeContent reads what stands behind the tag of a field of which this has been read so far.
+func takeContent(s string, at int, f Field) (Field, int, bool) {
 	n, at, ok := TakeVarint(s, at)
 	if !ok {
 		return Field{}, 0, false

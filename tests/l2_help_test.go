@@ -10,15 +10,20 @@ import (
 	"loop.example/g00333/impl"
 )
 
-// schemaReader reads the short notation of these tests, {a:1! num,b:2 [text],c:3 enum(4)}. It does not ask
-// whether the schema is a good one, so that wrong ones can be written too.
+// notation is what is left of a text in one of these tests' short notations.
+type notation struct {
+	text string
+}
+
+// schemaReader reads {a:1! num,b:2 [text],c:3 enum(4)}. It does not ask whether the schema is a good one, so
+// that wrong ones can be written too.
 type schemaReader struct {
-	text  string
+	notation
 	types []impl.Type
 }
 
 func schema(text string) impl.Schema {
-	r := &schemaReader{text: text}
+	r := &schemaReader{notation: notation{text: text}}
 	r.take(impl.Type{Up: -1})
 	if r.text != "" {
 		panic("left of a schema: " + r.text)
@@ -26,20 +31,20 @@ func schema(text string) impl.Schema {
 	return impl.Schema{Types: r.types}
 }
 
-func (r *schemaReader) has(mark string) bool {
+func (r *notation) has(mark string) bool {
 	rest, found := strings.CutPrefix(r.text, mark)
 	r.text = rest
 	return found
 }
 
-func (r *schemaReader) upTo(marks string) string {
+func (r *notation) upTo(marks string) string {
 	at := strings.IndexAny(r.text, marks)
 	word := r.text[:at]
 	r.text = r.text[at:]
 	return word
 }
 
-func (r *schemaReader) number(marks string) int {
+func (r *notation) number(marks string) int {
 	n, err := strconv.Atoi(r.upTo(marks))
 	if err != nil {
 		panic(err)
