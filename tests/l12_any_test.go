@@ -327,7 +327,7 @@ func TestMachinesAnswerTheSameFromManySides(t *testing.T) {
 				text, same, okSame := impl.SameLanguage(m, n)
 				both, okBoth := impl.MeetMachines(m, n)
 				turned, okTurned := impl.TurnMachine(m)
-				if !is || !slices.Equal(all, []int{0, 1, 2}) || !slices.Equal(classes, []int{0, 0, 1, 2}) || rounds != 1 || !impl.GoodMachine(m) || !okRun || !okAll || !okClasses {
+				if !is || !slices.Equal(all, []int{0, 1, 2}) || !slices.Equal(classes, []int{0, 0, 2, 3}) || rounds != 1 || !impl.GoodMachine(m) || !okRun || !okAll || !okClasses {
 					t.Errorf("%d: %v, %v, %v, %d", i, is, all, classes, rounds)
 				}
 				if !sameMachine(least, machine("010 111!")) || text != "b" || same || !sameMachine(both, wantBoth) || !sameMachine(turned, machine("120! 120! 222 000")) || !okLeast || !okSame || !okBoth || !okTurned {

@@ -131,55 +131,58 @@ func wantPartsAt(m impl.Machine, apart [][]int, one, other, long int) bool {
 	return false
 }
 
-// wantClasses: round k parts those that a text of k letters, and no shorter one, parts.
+// wantClasses: round k parts those that a text of k letters, and no shorter one, parts. The number of a class is its
+// first state.
 func wantClasses(m impl.Machine) ([]int, int) {
 	apart := wantApart(m)
 	var classes []int
-	rounds, many := 0, 0
+	rounds := 0
 	for state := range m.Ends {
 		for one := range state {
 			if apart[one][state] != never {
 				rounds = max(rounds, apart[one][state])
 			}
 		}
-		first := slices.Index(apart[state], never)
-		if first == state {
-			classes = append(classes, many)
-			many++
-		} else {
-			classes = append(classes, classes[first])
-		}
+		classes = append(classes, slices.Index(apart[state], never))
 	}
 	return classes, rounds
 }
 
-// wantDivided goes round by round, as the document tells: classes are lists of states.
+// wantDivided goes round by round, as the document tells: classes are lists of states, until there are no more of them.
 func wantDivided(m impl.Machine) ([]int, int) {
-	byKey := func(key func(state int) string) []int {
-		var keys []string
-		var classes []int
-		for state := range m.Ends {
-			if !slices.Contains(keys, key(state)) {
-				keys = append(keys, key(state))
-			}
-			classes = append(classes, slices.Index(keys, key(state)))
-		}
-		return classes
-	}
-	classes := byKey(func(state int) string { return strconv.FormatBool(m.Ends[state]) })
+	classes := listsByKey(m, func(state int) string { return strconv.FormatBool(m.Ends[state]) })
 	for rounds := 0; ; rounds++ {
-		next := byKey(func(state int) string {
-			key := strconv.Itoa(classes[state])
+		numbers := numbersOfLists(m, classes)
+		next := listsByKey(m, func(state int) string {
+			key := strconv.Itoa(numbers[state])
 			for _, to := range m.Next[state] {
-				key += " " + strconv.Itoa(classes[to])
+				key += " " + strconv.Itoa(numbers[to])
 			}
 			return key
 		})
-		if slices.Max(next) == slices.Max(classes) {
-			return classes, rounds
+		if len(next) == len(classes) {
+			return numbers, rounds
 		}
 		classes = next
 	}
+}
+
+func listsByKey(m impl.Machine, key func(state int) string) map[string][]int {
+	lists := map[string][]int{}
+	for state := range m.Ends {
+		lists[key(state)] = append(lists[key(state)], state)
+	}
+	return lists
+}
+
+func numbersOfLists(m impl.Machine, lists map[string][]int) []int {
+	numbers := make([]int, len(m.Ends))
+	for _, list := range lists {
+		for _, state := range list {
+			numbers[state] = slices.Min(list)
+		}
+	}
+	return numbers
 }
 
 // firstTexts has for each thing that texts lead to the least text that leads there, in their order; each text is gone

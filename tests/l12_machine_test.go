@@ -359,6 +359,11 @@ func classed(t *testing.T, m impl.Machine) int {
 	if !slices.Equal(classes, want) || rounds != wantRounds || !ok {
 		t.Errorf("%v: ClassesOf = %v, %d, %v; want %v, %d", m, classes, rounds, ok, want, wantRounds)
 	}
+	for state, class := range classes {
+		if class != slices.Index(classes, class) {
+			t.Errorf("%v: ClassesOf = %v: the class of %d has not its first state's number", m, classes, state)
+		}
+	}
 	divided, dividedRounds := wantDivided(m)
 	if !slices.Equal(classes, divided) || rounds != dividedRounds {
 		t.Errorf("%v: ClassesOf = %v, %d; round by round %v, %d", m, classes, rounds, divided, dividedRounds)
@@ -382,17 +387,17 @@ func TestClassesOfTable(t *testing.T) {
 		"000 111!":             {[]int{0, 1}, 0},
 		"000! 111":             {[]int{0, 1}, 0},
 		"111! 000 222!":        {[]int{0, 1, 2}, 1},
-		"222 222 000!":         {[]int{0, 0, 1}, 0},
+		"222 222 000!":         {[]int{0, 0, 2}, 0},
 		"111 222 222!":         {[]int{0, 1, 2}, 1},
 		"000 222! 111!":        {[]int{0, 1, 1}, 0},
 		"000! 111 222! 333":    {[]int{0, 1, 0, 1}, 0},
-		"120 120 222! 000!":    {[]int{0, 0, 1, 2}, 1},
+		"120 120 222! 000!":    {[]int{0, 0, 2, 3}, 1},
 		"111 222 333 333!":     {[]int{0, 1, 2, 3}, 2},
 		"333 111! 000 222":     {[]int{0, 1, 0, 0}, 0},
 		"333 111! 100 222":     {[]int{0, 1, 2, 3}, 2},
-		"000 121 212 343 434!": {[]int{0, 0, 0, 1, 2}, 1},
+		"000 121 212 343 434!": {[]int{0, 0, 0, 3, 4}, 1},
 		// By the last letter alone they are unlike, by the first, by the middle one.
-		"000 001 002!": {[]int{0, 0, 1}, 0},
+		"000 001 002!": {[]int{0, 0, 2}, 0},
 		"001 002 000!": {[]int{0, 1, 2}, 1},
 		"100 200 000!": {[]int{0, 1, 2}, 1},
 		"010 020 000!": {[]int{0, 1, 2}, 1},
@@ -400,6 +405,14 @@ func TestClassesOfTable(t *testing.T) {
 		"000 200 000! 003!": {[]int{0, 1, 2, 3}, 1},
 		// A class that only comes to be in the first round parts another one in the second.
 		"200 300 022! 333!": {[]int{0, 1, 2, 3}, 2},
+		// The number of a class is its first state's place, however many classes stand ahead of it.
+		"101! 101! 020":                                     {[]int{0, 0, 2}, 0},
+		"123 344 033! 022! 304!":                            {[]int{0, 1, 2, 2, 4}, 1},
+		"000! 000! 222 222 000!":                            {[]int{0, 0, 2, 2, 0}, 0},
+		"000 000 333 444 444!":                              {[]int{0, 0, 2, 3, 4}, 2},
+		"BBB 000 111 222 333 444 555 666 777 888 999 BBB!":  {[]int{0, 1, 2, 3, 4, 5, 6, 7, 8, 9, 10, 11}, 10},
+		"000 111 222 333 444 555 666 777 888 999 AAA BBB!":  {[]int{0, 0, 0, 0, 0, 0, 0, 0, 0, 0, 0, 11}, 0},
+		"000 000 000 000 000 555! 444 444 BBB 999 AAA BBB!": {[]int{0, 0, 0, 0, 0, 5, 0, 0, 8, 0, 0, 5}, 1},
 	} {
 		m := machine(text)
 		classes, rounds, ok := impl.ClassesOf(m)
@@ -460,7 +473,7 @@ func TestClassesOfUnreached(t *testing.T) {
 	if got, _ := impl.ReachedOf(m); !slices.Equal(got, []int{0}) {
 		t.Error("no test: so much is reached:", got)
 	}
-	if classes, rounds, ok := impl.ClassesOf(m); !slices.Equal(classes, []int{0, 1, 0, 0, 2, 1, 3}) || rounds != 1 || !ok {
+	if classes, rounds, ok := impl.ClassesOf(m); !slices.Equal(classes, []int{0, 1, 0, 0, 4, 1, 6}) || rounds != 1 || !ok {
 		t.Errorf("ClassesOf = %v, %d, %v", classes, rounds, ok)
 	}
 	classed(t, m)
@@ -499,17 +512,23 @@ func TestClassesOfSmallMachines(t *testing.T) {
 func TestClassesOfRandomMachines(t *testing.T) {
 	r := rand.New(rand.NewSource(4))
 	rounds := map[int]int{}
-	fewer := 0
+	fewer, gaps := 0, 0
 	for _, m := range randomMachines(4, 2500) {
 		rounds[classed(t, m)]++
 		like := randomLike(r, m)
 		rounds[classed(t, like)]++
-		if classes, _, _ := impl.ClassesOf(like); slices.Max(classes) < len(classes)-1 {
+		classes, _, _ := impl.ClassesOf(like)
+		many := len(slices.Compact(slices.Sorted(slices.Values(classes))))
+		if many < len(classes) {
 			fewer++
 		}
+		// The places of first states tell other numbers than counting the classes would.
+		if slices.Max(classes) > many-1 {
+			gaps++
+		}
 	}
-	if fewer < 500 || len(rounds) < 7 {
-		t.Error("no test: so many with fewer classes, so many rounds:", fewer, rounds)
+	if fewer < 500 || gaps < 500 || len(rounds) < 7 {
+		t.Error("no test: so many with fewer classes, with numbers that are left out, so many rounds:", fewer, gaps, rounds)
 	}
 }
 
