@@ -401,7 +401,7 @@ func TestAllShortSessions(t *testing.T) {
 	allSteps(t, s, witness{slices.Clone(s.Items), slices.Clone(s.Handed)}, 3)
 }
 
-// Each of a session's texts is another one, but where they are pushed alike the same holds, by their places.
+// Items whose texts are alike are told apart by their places.
 func TestItemsAlikeAreEachHandedOnOnce(t *testing.T) {
 	r := rand.New(rand.NewSource(156))
 	for range 300 {
